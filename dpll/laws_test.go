@@ -8,6 +8,7 @@ import (
 
 	"cadence/api"
 	"cadence/cnf"
+	"cadence/rup"
 )
 
 // some: formulas for the laws, of few variables.
@@ -86,6 +87,9 @@ func TestProof(t *testing.T) {
 			seen++
 			if s.Model != nil || int64(len(s.Proof)) != s.Conflicts || !proves(f, s.Proof) {
 				t.Fatalf("%v, %v: %v", f, first, s.Proof)
+			}
+			if n, bad := rup.Check(f, s.Proof); bad != api.OK {
+				t.Fatalf("%v, %v: %v is refused: %d, %v", f, first, s.Proof, n, bad)
 			}
 			for _, step := range s.Proof {
 				set, twofold, _ := cnf.Norm(step.Clause)
