@@ -440,3 +440,14 @@ func TestNode(t *testing.T) {
 		t.Error(s.Len())
 	}
 }
+
+// TestZeroStore: a store that New did not make, as it may come in to other layers, is as one without a limit.
+func TestZeroStore(t *testing.T) {
+	s := new(Store)
+	if order, e := s.Order(); len(order) > 0 || e != api.OK || s.Len() != 0 {
+		t.Error(order, e, s.Len())
+	}
+	put(t, s, variable("k", 8), word(8, 3), api.Node{Op: api.OpAdd, W: 8, A: 1, B: 2})
+	wantSame(t, "again", told(s.Var("k", 8)), answer{1, api.OK})
+	wantSame(t, "another width", told(s.Var("k", 4)), answer{0, api.ErrName})
+}
