@@ -82,7 +82,7 @@ func faultOf(t testing.TB, p api.Program) fault {
 		t.Fatalf("Check says %d, Fault %d, of %s", again, e, shown(p))
 	}
 	size, bad := Size(p)
-	if bad != e || (e == api.OK) != (size >= 0 && size <= 65536) && e == api.OK || e != api.OK && size != 0 {
+	if bad != e || e == api.OK && (size < 0 || size > 65536) || e != api.OK && size != 0 {
 		t.Fatalf("Size is %d, %d, and Fault %v, of %s", size, bad, got, shown(p))
 	}
 	things, bad := Things(p)
