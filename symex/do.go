@@ -1,9 +1,8 @@
 package symex
 
 import (
-	mathbits "math/bits"
-
 	"cadence/api"
+	"cadence/ops"
 )
 
 // Do: an instruction, if it is no if (F22.3).
@@ -29,7 +28,7 @@ func (s *State) do(x *api.Ins) (Event, bool) {
 		s.arrays[x.Array].Store(of[0], of[1])
 	case api.FRelease:
 	default:
-		s.temps[x.Dst] = s.made(x.Op, of)
+		s.temps[x.Dst] = s.maker.Op(x.Op, of)
 	}
 	return event, event.Kind > 0
 }
@@ -37,8 +36,8 @@ func (s *State) do(x *api.Ins) (Event, bool) {
 // words: those of the arguments that an instruction has.
 func (s *State) words(x *api.Ins) [3]int {
 	var of [3]int
-	all := args(x)
-	for i, a := range all[:arity(x.Op)] {
+	all := ops.Args(x)
+	for i, a := range all[:ops.Arity(x.Op)] {
 		of[i] = s.word(a)
 	}
 	return of
@@ -61,23 +60,20 @@ func (s *State) event(x *api.Ins, of [3]int) Event {
 
 // lineOf: the line of an index in an array.
 func (s *State) lineOf(array, index int) int {
-	within, bits := log(s.line), min(log(s.arrays[array].Size()), s.width)
-	if within >= bits {
-		return s.number(0)
+	slice, parts := s.maker.Line(index, s.arrays[array].Size(), s.line)
+	if !parts {
+		return s.maker.Number(0)
 	}
-	return s.piece(index, within, bits-within)
+	return s.maker.Wide(slice)
 }
-
-// log: of a power of two.
-func log(n int) int { return mathbits.Len(uint(n)) - 1 }
 
 // fits: could an instruction stand in the code, as far as its own fields tell, and is it no if?
 func (s *State) fits(x *api.Ins) bool {
-	has := arity(x.Op)
-	if has == 0 || len(x.Then) > 0 || len(x.Else) > 0 {
+	has := ops.Arity(x.Op)
+	if has == 0 || x.Op == api.FIf || len(x.Then) > 0 || len(x.Else) > 0 {
 		return false
 	}
-	for i, a := range args(x) {
+	for i, a := range ops.Args(x) {
 		if i < has && !s.isArg(a) || i >= has && a != (api.Arg{}) {
 			return false
 		}
@@ -86,14 +82,14 @@ func (s *State) fits(x *api.Ins) bool {
 }
 
 func (s *State) dstFits(x *api.Ins) bool {
-	if hasDst(x.Op) {
+	if ops.HasDst(x.Op) {
 		return s.isTemp(x.Dst)
 	}
 	return x.Dst == 0
 }
 
 func (s *State) arrayFits(x *api.Ins) bool {
-	if !hasArray(x.Op) {
+	if !ops.HasArray(x.Op) {
 		return x.Array == 0
 	}
 	return x.Array >= 0 && x.Array < len(s.arrays) && s.arrays[x.Array] != nil &&

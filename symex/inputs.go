@@ -5,21 +5,16 @@ import (
 
 	"cadence/api"
 	"cadence/bits"
+	"cadence/ops"
 	"cadence/simp"
 	"cadence/term"
 )
 
-// isInput: has a declaration words that are handed in?
-func isInput(d *api.Decl) bool { return d.Kind == api.DPublic || d.Kind == api.DSecret }
-
-// wordsOf: how many words a declaration has.
-func wordsOf(d *api.Decl) int { return max(d.Size, 1) }
-
 func inputWords(decls []api.Decl) int {
 	n := 0
 	for i := range decls {
-		if d := &decls[i]; isInput(d) {
-			n += wordsOf(d)
+		if d := &decls[i]; ops.IsInput(d) {
+			n += ops.Count(d)
 		}
 	}
 	return n

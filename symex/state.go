@@ -6,12 +6,13 @@ import (
 	"cadence/api"
 	"cadence/bits"
 	"cadence/mem"
+	"cadence/ops"
 	"cadence/simp"
 )
 
 // State: the words of a run, as terms.
 type State struct {
-	maker       *simp.Maker
+	maker       ops.Maker
 	width, line int
 	kinds       []int        // of the declarations; never written to, so that a clone has the same list
 	temps       []int        // the word of each
@@ -20,40 +21,22 @@ type State struct {
 
 // newState stands at the beginning of code that may be; nothing of it is kept.
 func newState(f api.Flat, m *simp.Maker, in []int) *State {
-	s := &State{maker: m, width: f.Width, line: f.Line, kinds: make([]int, len(f.Decls)), arrays: make([]*mem.Array, len(f.Decls))}
-	for i := range f.Decls {
-		d := &f.Decls[i]
-		s.kinds[i] = d.Kind
-		words := s.first(d, in)
-		if isInput(d) {
-			in = in[len(words):]
-		}
-		if d.Size == 0 {
+	s := &State{maker: ops.Of(m, f.Width), width: f.Width, line: f.Line, kinds: make([]int, len(f.Decls)), arrays: make([]*mem.Array, len(f.Decls))}
+	for i, words := range s.maker.First(f.Decls, in) {
+		s.kinds[i] = f.Decls[i].Kind
+		if f.Decls[i].Size == 0 {
 			s.temps = append(s.temps, words[0])
 		} else {
 			s.arrays[i], _ = mem.New(m, words...)
 		}
 	}
-	s.temps = append(s.temps, s.zeros(f.Temps-len(s.temps))...)
+	zero := s.maker.Number(0)
+	s.temps = append(s.temps, slices.Repeat([]int{zero}, f.Temps-len(s.temps))...)
 	return s
 }
 
-// first: the words of a declaration at the beginning, with what is left of the inputs.
-func (s *State) first(d *api.Decl, in []int) []int {
-	if isInput(d) {
-		return in[:wordsOf(d)]
-	}
-	words := s.zeros(wordsOf(d))
-	for i, x := range d.Values {
-		words[i] = s.number(x)
-	}
-	return words
-}
-
-func (s *State) zeros(n int) []int { return slices.Repeat([]int{s.number(0)}, n) }
-
-// isNone: is it no state? Begin made one that has a maker.
-func (s *State) isNone() bool { return s == nil || s.maker == nil }
+// isNone: is it no state? Begin made one that has a width.
+func (s *State) isNone() bool { return s == nil || s.width == 0 }
 
 // Word: of an argument (F22.2).
 func (s *State) Word(a api.Arg) (int, api.Errno) {
@@ -72,7 +55,7 @@ func (s *State) Truth(a api.Arg) (int, api.Errno) {
 	if e != api.OK {
 		return 0, e
 	}
-	return s.truth(word), api.OK
+	return s.maker.Truth(word), api.OK
 }
 
 // Words: of each declaration but tables, in order (F22.2).
@@ -129,7 +112,7 @@ func (s *State) isTemp(n int) bool { return n >= 0 && n < len(s.temps) }
 // word: of an argument of the code.
 func (s *State) word(a api.Arg) int {
 	if a.Temp < 0 {
-		return s.number(a.Num)
+		return s.maker.Number(a.Num)
 	}
 	return s.temps[a.Temp]
 }

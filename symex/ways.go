@@ -13,7 +13,8 @@ type choice func(truth int) (then, otherwise bool)
 
 // open: into both, unless the truth is so simple that it tells one.
 func (s *State) open(truth int) (then, otherwise bool) {
-	return !s.is(truth, api.OpFalse), !s.is(truth, api.OpTrue)
+	told, is := s.maker.Tells(truth)
+	return !told || is, !is
 }
 
 // along: into those into which a run of the same code went.
@@ -83,7 +84,7 @@ func (w *way) on(at place, yield func(*way) bool) bool {
 			w.do(x)
 			continue
 		}
-		truth := w.state.truth(w.state.word(x.A))
+		truth := w.state.maker.Truth(w.state.word(x.A))
 		then, otherwise := w.choose(truth)
 		if then && otherwise {
 			here := mark{len(w.conds), len(w.events), len(w.turned)}
@@ -145,9 +146,9 @@ func (w *way) back(to mark) {
 func (w *way) branch(truth int, then bool) {
 	event := Event{Kind: api.EvBranch, N: 1}
 	if !then {
-		truth, event.N = w.state.not(truth), 0
+		truth, event.N = w.state.maker.Not(truth), 0
 	}
-	if !w.state.is(truth, api.OpTrue) {
+	if _, is := w.state.maker.Tells(truth); !is {
 		w.conds = append(w.conds, truth)
 	}
 	w.events = append(w.events, event)
