@@ -226,7 +226,7 @@ func (a *along) isRun(copy int, in, x, y []uint64) []api.Event {
 func TestManyCodes(t *testing.T) {
 	k := picker(2306)
 	held, ways, seen, parted := 0, 0, 0, 0
-	for n := range 1500 {
+	for n := range 900 {
 		f := anyFlat(t, &k, 4+k.below(8), 3)
 		var x, y [6][]uint64
 		var count [6]int
@@ -267,7 +267,7 @@ func TestManyCodes(t *testing.T) {
 			}
 		}
 	}
-	if held < 3000 || ways < 3000 || seen < 1000 || parted < 3000 {
+	if held < 2000 || ways < 2000 || seen < 500 || parted < 1500 {
 		t.Fatal("too few: ", held, ways, seen, parted)
 	}
 }
