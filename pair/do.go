@@ -121,8 +121,8 @@ func (w *Way) done(x *api.Ins, c words, of [3]int) words {
 // branch goes into the part that a copy's truth tells, the first copy's first; if none does, the way waits.
 func (w *Way) branch(x *api.Ins) {
 	set := each(w.words(x), w.set)
-	for copy := 1; copy <= 2; copy++ {
-		told, is := w.shared.maker.Tells(set.of(copy))
+	for _, truth := range []int{set.one, set.two} {
+		told, is := w.shared.maker.Tells(truth)
 		switch {
 		case is:
 			w.into(x.Then)

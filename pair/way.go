@@ -102,7 +102,7 @@ func owned(code []api.Ins) []api.Ins {
 // isNone: is it no way? Start made one that has something to share.
 func (w *Way) isNone() bool { return w == nil || w.shared == nil }
 
-// refusal: why there can be no answer to what a way would have to ask for.
+// refusal: why a way that waits for nothing of that kind has no answer to it.
 func (w *Way) refusal(kind int) api.Errno {
 	switch {
 	case w.isNone():
